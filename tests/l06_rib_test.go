@@ -1102,15 +1102,21 @@ func ribCases() []*ribCase {
 	return l
 }
 
-func TestRibArgumentsKept(t *testing.T) {
-	for _, c := range ribCases() {
+// checkKept calls each function with each set of arguments, and compares what is shown of these before and after.
+func checkKept[C interface{ shown() string }, R any](t *testing.T, cases []C, calls map[string]func(C) R) {
+	t.Helper()
+	for _, c := range cases {
 		was := c.shown()
-		for name, call := range ribCalls() {
+		for name, call := range calls {
 			if call(c); c.shown() != was {
 				t.Fatal(name, was, c.shown())
 			}
 		}
 	}
+}
+
+func TestRibArgumentsKept(t *testing.T) {
+	checkKept(t, ribCases(), ribCalls())
 }
 
 // numberSlices are the slices of numbers of a result.
@@ -1122,8 +1128,13 @@ func (x ribResult) numberSlices() [][]int {
 	return l
 }
 
-// checkApart fills each list, with its spare capacity, with an element of its own: a list that shares memory with a later one does not keep it.
 func checkApart[T comparable](t *testing.T, name string, lists [][]T, element func(int) T) {
+	t.Helper()
+	checkApartBy(t, name, lists, element, func(x, y T) bool { return x == y })
+}
+
+// checkApartBy fills each list, with its spare capacity, with an element of its own: a list that shares memory with a later one does not keep it.
+func checkApartBy[T any](t *testing.T, name string, lists [][]T, element func(int) T, same func(T, T) bool) {
 	t.Helper()
 	for i, l := range lists {
 		for j := range l[:cap(l)] {
@@ -1132,11 +1143,15 @@ func checkApart[T comparable](t *testing.T, name string, lists [][]T, element fu
 	}
 	for i, l := range lists {
 		for _, x := range l[:cap(l)] {
-			if x != element(i) {
+			if !same(x, element(i)) {
 				t.Fatal(name, "shares memory", i, x)
 			}
 		}
 	}
+}
+
+func samePeer(a, b impl.Entry) bool {
+	return a.Peer == b.Peer
 }
 
 func TestRibResultsAreNew(t *testing.T) {
@@ -1148,19 +1163,7 @@ func TestRibResultsAreNew(t *testing.T) {
 			}
 			checkApart(t, name, slices.Concat(c.numbers, first.numberSlices(), second.numberSlices()), func(i int) int { return 1000000 + i })
 			checkApart(t, name, [][]impl.Prefix{c.prefixes, first.prefixes, second.prefixes}, func(i int) impl.Prefix { return impl.Prefix{Addr: i} })
-			tables := [][]impl.Entry{c.entries, first.l, second.l}
-			for k, l := range tables {
-				for j := range l[:cap(l)] {
-					l[:cap(l)][j] = impl.Entry{Peer: k + 50}
-				}
-			}
-			for k, l := range tables {
-				for _, e := range l[:cap(l)] {
-					if e.Peer != k+50 {
-						t.Fatal(name, "shares its list", i, e)
-					}
-				}
-			}
+			checkApartBy(t, name, [][]impl.Entry{c.entries, first.l, second.l}, func(i int) impl.Entry { return impl.Entry{Peer: i + 50} }, samePeer)
 		}
 	}
 }
