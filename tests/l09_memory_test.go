@@ -114,9 +114,9 @@ func (c *fabricCase) shown() string {
 
 // fabricResult has what a function returned; slices only, because nothing else can share memory.
 type fabricResult struct {
-	f    impl.Fabric
-	fib  impl.Fib
-	path []int
+	f     impl.Fabric
+	fib   impl.Fib
+	paths [][]int
 }
 
 func fabricCalls() map[string]func(*fabricCase) fabricResult {
@@ -137,7 +137,7 @@ func fabricCalls() map[string]func(*fabricCase) fabricResult {
 		"FibAt":   func(c *fabricCase) fabricResult { f, _ := impl.FibAt(c.f, c.at); return fabricResult{fib: f} },
 		"Walk": func(c *fabricCase) fabricResult {
 			l, _ := impl.Walk(c.f, c.at, c.addr, 7)
-			return fabricResult{path: l}
+			return fabricResult{paths: [][]int{l}}
 		},
 		"Hops": func(c *fabricCase) fabricResult { impl.Hops(c.f, c.at, c.addr); return fabricResult{} },
 	}
@@ -194,7 +194,7 @@ func (x fabricResult) prefixSlices() [][]impl.Prefix {
 }
 
 func (x fabricResult) numberSlices() [][]int {
-	l := [][]int{x.path}
+	l := slices.Clone(x.paths)
 	for _, e := range slices.Concat(x.entrySlices()...) {
 		l = append(l, e.Attr.Path, e.Attr.Comm)
 	}
@@ -212,6 +212,19 @@ func (x fabricResult) hopSlices() [][]impl.Hop {
 	return l
 }
 
+// checkFabricsApart checks that two results share no memory with each other and with the arguments, nor within themselves.
+func checkFabricsApart(t *testing.T, name string, c *fabricCase, a, b fabricResult) {
+	t.Helper()
+	checkApart(t, name, slices.Concat(c.numbers, a.numberSlices(), b.numberSlices()), func(i int) int { return 1000000 + i })
+	checkApart(t, name, slices.Concat(c.prefixes, a.prefixSlices(), b.prefixSlices()), func(i int) impl.Prefix { return impl.Prefix{Addr: i} })
+	checkApart(t, name, slices.Concat(a.hopSlices(), b.hopSlices()), func(i int) impl.Hop { return impl.Hop{If: i} })
+	checkApartBy(t, name, slices.Concat(c.entries, a.entrySlices(), b.entrySlices()), func(i int) impl.Entry { return impl.Entry{Peer: i + 50} }, samePeer)
+	checkApartBy(t, name, slices.Concat(c.msgs, a.msgSlices(), b.msgSlices()), func(i int) impl.Msg { return impl.Msg{As: i} }, func(x, y impl.Msg) bool { return x.As == y.As })
+	checkApartBy(t, name, [][]impl.Group{a.fib.L, b.fib.L}, func(i int) impl.Group { return impl.Group{Prefix: impl.Prefix{Addr: i}} }, func(x, y impl.Group) bool { return x.Prefix == y.Prefix })
+	checkApartBy(t, name, [][]impl.Node{c.nodes, a.f.Nodes, b.f.Nodes}, func(i int) impl.Node { return impl.Node{As: i} }, func(x, y impl.Node) bool { return x.As == y.As })
+	checkApartBy(t, name, [][]impl.Link{c.links, a.f.Links, b.f.Links}, func(i int) impl.Link { return impl.Link{A: i} }, func(x, y impl.Link) bool { return x.A == y.A })
+}
+
 func TestFabricResultsAreNew(t *testing.T) {
 	for name, call := range fabricCalls() {
 		for i, c := range fabricCases(t) {
@@ -219,14 +232,7 @@ func TestFabricResultsAreNew(t *testing.T) {
 			if show(a) != show(b) {
 				t.Fatal(name, "differs from call to call", i)
 			}
-			checkApart(t, name, slices.Concat(c.numbers, a.numberSlices(), b.numberSlices()), func(i int) int { return 1000000 + i })
-			checkApart(t, name, slices.Concat(c.prefixes, a.prefixSlices(), b.prefixSlices()), func(i int) impl.Prefix { return impl.Prefix{Addr: i} })
-			checkApart(t, name, slices.Concat(a.hopSlices(), b.hopSlices()), func(i int) impl.Hop { return impl.Hop{If: i} })
-			checkApartBy(t, name, slices.Concat(c.entries, a.entrySlices(), b.entrySlices()), func(i int) impl.Entry { return impl.Entry{Peer: i + 50} }, samePeer)
-			checkApartBy(t, name, slices.Concat(c.msgs, a.msgSlices(), b.msgSlices()), func(i int) impl.Msg { return impl.Msg{As: i} }, func(x, y impl.Msg) bool { return x.As == y.As })
-			checkApartBy(t, name, [][]impl.Group{a.fib.L, b.fib.L}, func(i int) impl.Group { return impl.Group{Prefix: impl.Prefix{Addr: i}} }, func(x, y impl.Group) bool { return x.Prefix == y.Prefix })
-			checkApartBy(t, name, [][]impl.Node{c.nodes, a.f.Nodes, b.f.Nodes}, func(i int) impl.Node { return impl.Node{As: i} }, func(x, y impl.Node) bool { return x.As == y.As })
-			checkApartBy(t, name, [][]impl.Link{c.links, a.f.Links, b.f.Links}, func(i int) impl.Link { return impl.Link{A: i} }, func(x, y impl.Link) bool { return x.A == y.A })
+			checkFabricsApart(t, name, c, a, b)
 		}
 	}
 }
